@@ -32,15 +32,12 @@ func someBits() []string {
 // answers calls each function of the layer and fails where one panics.
 func answers(t *testing.T, s string, n, count int64) {
 	t.Helper()
-	defer func() {
-		if r := recover(); r != nil {
-			t.Errorf("panic at %q, %d, %d: %v", s, n, count, r)
-		}
-	}()
-	impl.BitsOk(s)
-	impl.BitsOf(n, count)
-	impl.NumberOf(s)
-	impl.RunOf(s)
+	mustAnswer(t, func() {
+		impl.BitsOk(s)
+		impl.BitsOf(n, count)
+		impl.NumberOf(s)
+		impl.RunOf(s)
+	}, s, n, count)
 }
 
 func TestBitsLimits(t *testing.T) {

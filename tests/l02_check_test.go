@@ -79,15 +79,12 @@ func withCheck(t *testing.T, s string) string {
 // checkAnswers calls each function of the layer and fails where one panics or changes what it is given.
 func checkAnswers(t *testing.T, s string) {
 	t.Helper()
-	defer func() {
-		if r := recover(); r != nil {
-			t.Errorf("panic at %q: %v", s, r)
-		}
-	}()
 	before := strings.Clone(s)
-	impl.CheckOf(s)
-	impl.WithCheck(s)
-	impl.CheckRight(s)
+	mustAnswer(t, func() {
+		impl.CheckOf(s)
+		impl.WithCheck(s)
+		impl.CheckRight(s)
+	}, s)
 	if s != before {
 		t.Errorf("%q has become %q", before, s)
 	}
