@@ -187,14 +187,13 @@ func TestWinnersByHand(t *testing.T) {
 	}
 }
 
-// Each list of at most 5 of some frames, in each order: right ones, two of them of one rank, and wrong ones.
-func TestWinnerEachShortList(t *testing.T) {
-	kinds := []impl.Frame{dataFrame(9), dataFrame(9, 0), remoteFrame(9, 0), dataFrame(8, 255), remoteFrame(8, 8), {Id: -1}, {Len: 3}}
+// eachList calls with each list of at most so many of these frames, in each order.
+func eachList(kinds []impl.Frame, most int, call func(list []impl.Frame)) {
 	var list []impl.Frame
 	var longer func()
 	longer = func() {
-		checkWinner(t, list, winnerByEye(list))
-		if len(list) == 5 {
+		call(list)
+		if len(list) == most {
 			return
 		}
 		for _, f := range kinds {
@@ -204,6 +203,18 @@ func TestWinnerEachShortList(t *testing.T) {
 		}
 	}
 	longer()
+}
+
+// fewKinds are right frames, two of them of one rank, and wrong ones.
+func fewKinds() []impl.Frame {
+	return []impl.Frame{dataFrame(9), dataFrame(9, 0), remoteFrame(9, 0), dataFrame(8, 255), remoteFrame(8, 8), {Id: -1}, {Len: 3}}
+}
+
+// Each list of at most 5 of these, in each order.
+func TestWinnerEachShortList(t *testing.T) {
+	eachList(fewKinds(), 5, func(list []impl.Frame) {
+		checkWinner(t, list, winnerByEye(list))
+	})
 }
 
 // One wrong frame of each kind, and many, ahead of right ones, behind them, and on both sides; and alone.
