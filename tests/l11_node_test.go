@@ -591,6 +591,19 @@ func drivingNodes() []impl.Node {
 	return list
 }
 
+// spoilers each make one thing of a right node wrong; they write into none of its lists.
+func spoilers() []func(n *impl.Node) {
+	return []func(n *impl.Node){
+		func(n *impl.Node) { n.Left = 129 }, func(n *impl.Node) { n.Left = -1 }, func(n *impl.Node) { n.Last += 2 }, func(n *impl.Node) { n.Last = -1 },
+		func(n *impl.Node) { n.Run = 12 }, func(n *impl.Node) { n.Run = -1 }, func(n *impl.Node) { n.At = 10 }, func(n *impl.Node) { n.At = -1 },
+		func(n *impl.Node) { n.Phase += 8 }, func(n *impl.Node) { n.Phase -= 8 }, func(n *impl.Node) { n.Got += "x" }, func(n *impl.Node) { n.Got += strings.Repeat("0", 99) },
+		func(n *impl.Node) { n.Count.Sent = 1001 }, func(n *impl.Node) { n.Count.Got = -1 }, func(n *impl.Node) { n.Frame.Id = 2048 }, func(n *impl.Node) { n.Frame.Len++ },
+		func(n *impl.Node) { n.Box = append(n.Box[:len(n.Box):len(n.Box)], impl.Frame{Id: -1}) }, func(n *impl.Node) { n.Box = []impl.Frame{{}, {}} },
+		func(n *impl.Node) { n.Fifo = []impl.Frame{{}, {Id: -1}} }, func(n *impl.Node) { n.Fifo = heard(33) },
+		func(n *impl.Node) { n.Filters = []impl.Filter{{Mask: 2048}} }, func(n *impl.Node) { n.Filters = make([]impl.Filter, 9) },
+	}
+}
+
 // What is not right goes ahead of all that would tell otherwise.
 func TestWrongNodesAreStill(t *testing.T) {
 	driving := drivingNodes()
@@ -599,15 +612,7 @@ func TestWrongNodesAreStill(t *testing.T) {
 		phases[n.Phase]++
 		given, held := nodeWithRoom(n)
 		before := held()
-		for _, wrong := range []func(n *impl.Node){
-			func(n *impl.Node) { n.Left = 129 }, func(n *impl.Node) { n.Left = -1 }, func(n *impl.Node) { n.Last += 2 }, func(n *impl.Node) { n.Last = -1 },
-			func(n *impl.Node) { n.Run = 12 }, func(n *impl.Node) { n.Run = -1 }, func(n *impl.Node) { n.At = 10 }, func(n *impl.Node) { n.At = -1 },
-			func(n *impl.Node) { n.Phase += 8 }, func(n *impl.Node) { n.Phase -= 8 }, func(n *impl.Node) { n.Got += "x" }, func(n *impl.Node) { n.Got += strings.Repeat("0", 99) },
-			func(n *impl.Node) { n.Count.Sent = 1001 }, func(n *impl.Node) { n.Count.Got = -1 }, func(n *impl.Node) { n.Frame.Id = 2048 }, func(n *impl.Node) { n.Frame.Len++ },
-			func(n *impl.Node) { n.Box = append(n.Box[:len(n.Box):len(n.Box)], impl.Frame{Id: -1}) }, func(n *impl.Node) { n.Box = []impl.Frame{{}, {}} },
-			func(n *impl.Node) { n.Fifo = []impl.Frame{{}, {Id: -1}} }, func(n *impl.Node) { n.Fifo = heard(33) },
-			func(n *impl.Node) { n.Filters = []impl.Filter{{Mask: 2048}} }, func(n *impl.Node) { n.Filters = make([]impl.Filter, 9) },
-		} {
+		for _, wrong := range spoilers() {
 			other := given
 			wrong(&other)
 			checkGives(t, other, false, 1, 1)
