@@ -163,7 +163,7 @@ func sampledByEye(n impl.Node, level int64) (impl.Node, impl.Happen) {
 
 func sendingByEye(n impl.Node) int64 {
 	silent := map[int64]bool{impl.PhIdle: true, impl.PhInter: true}
-	if !nodeByEye(n) || silent[n.Phase] || !n.Tx {
+	if silent[n.Phase] || !n.Tx || !rightByEye(n.Frame) {
 		return -1
 	}
 	return rankByEye(n.Frame)

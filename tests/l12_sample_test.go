@@ -677,8 +677,21 @@ func TestSendingEachPhase(t *testing.T) {
 		})
 		n.Tx = false
 		checkSending(t, n, -1)
-		n.Tx, n.Left = true, 129
-		checkSending(t, n, -1)
+		// It is not asked whether all the rest of the node is right.
+		n.Tx = true
+		for _, wrong := range []func(n *impl.Node){
+			func(n *impl.Node) { n.Left = 129 }, func(n *impl.Node) { n.Run, n.Last, n.At = -1, 2, 10 }, func(n *impl.Node) { n.Got, n.Box = "b", nil },
+			func(n *impl.Node) { n.Count = impl.Count{Sent: 1001} }, func(n *impl.Node) { n.Phase = 8 }, func(n *impl.Node) { n.Phase = -1 },
+			func(n *impl.Node) { n.Fifo, n.Filters = wrongEach(), []impl.Filter{{Mask: -1}} },
+		} {
+			checkSending(t, with(n, wrong), rank)
+			checkSending(t, with(n, wrong, func(n *impl.Node) { n.Tx = false }), -1)
+			checkSending(t, with(n, wrong, func(n *impl.Node) { n.Phase = impl.PhIdle }), -1)
+			checkSending(t, with(n, wrong, func(n *impl.Node) { n.Phase = impl.PhInter }), -1)
+		}
+	}
+	for _, f := range wrongFrames() {
+		eachPhase(impl.Node{Tx: true, Frame: f}, func(n impl.Node) { checkSending(t, n, -1) })
 	}
 	for _, n := range rightNodes() {
 		checkSending(t, n, sendingByEye(n))
@@ -700,7 +713,7 @@ func checkRefused(t *testing.T, n impl.Node) {
 			t.Fatalf("%+v queued at %+v: %d, %+v", f, n, code, after)
 		}
 	}
-	if rank := impl.Sending(given); rank != -1 {
+	if rank := impl.Sending(given); rank != sendingByEye(n) {
 		t.Fatalf("Sending %+v: %d", n, rank)
 	}
 	if !slices.Equal(held(), before) {
